@@ -13,17 +13,17 @@ import (
 // plainCodes goes by the words of promise 4.3, of lengths that are right.
 func plainCodes(lens []int) []api.Code {
 	codes := make([]api.Code, len(lens))
-	any, last := false, api.Code{}
+	begun, last := false, api.Code{}
 	for l := 1; l <= 15; l++ {
 		for s := range lens {
 			if lens[s] != l {
 				continue
 			}
 			word := api.Code{Len: l}
-			if any {
+			if begun {
 				word.Bits = (last.Bits + 1) << (l - last.Len)
 			}
-			codes[s], last, any = word, word, true
+			codes[s], last, begun = word, word, true
 		}
 	}
 	return codes
