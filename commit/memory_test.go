@@ -120,7 +120,7 @@ func TestLittleIsKept(t *testing.T) {
 		isError(t, "Delete", s.Delete(name), api.OK)
 	}
 	isError(t, "Commit", Commit(s, (strings.Repeat("o", 1<<20) + "wc")[1<<20:], reports), api.OK)
-	if grown := live() - before; grown > 100<<10 {
+	if grown := live() - before; grown > 500<<10 {
 		t.Errorf("%d bytes are kept", grown)
 	}
 	runtime.KeepAlive(s)

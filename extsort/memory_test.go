@@ -158,7 +158,7 @@ func TestEndedKeepsNothing(t *testing.T) {
 			f.Next()
 			isClosed(t, f, api.OK)
 		}
-		if grown := live() - before - stored(s); grown > 200<<10 {
+		if grown := live() - before - stored(s); grown > 1<<20 {
 			t.Errorf("%s: %d bytes are kept", end, grown)
 		}
 		runtime.KeepAlive(x)
@@ -225,7 +225,7 @@ func TestPrefixIsCut(t *testing.T) {
 		m.prefix = text[7:9]
 		sorters = append(sorters, makes(t, s, m))
 	}
-	if grown := live() - before; grown > 200<<10 {
+	if grown := live() - before; grown > 1<<20 {
 		t.Errorf("50 sorters keep %d bytes", grown)
 	}
 	runtime.KeepAlive(sorters)

@@ -202,6 +202,7 @@ func TestReadyIsNew(t *testing.T) {
 // live tells how many bytes are held.
 func live() int64 {
 	runtime.GC()
+	runtime.GC()
 	var stats runtime.MemStats
 	runtime.ReadMemStats(&stats)
 	return int64(stats.HeapAlloc)

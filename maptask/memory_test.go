@@ -135,7 +135,7 @@ func TestLittleIsKept(t *testing.T) {
 			}
 		}
 	}
-	if grown := live() - before; grown > 200<<10 {
+	if grown := live() - before; grown > 500<<10 {
 		t.Errorf("%d bytes are kept", grown)
 	}
 	runtime.KeepAlive(s)

@@ -243,7 +243,7 @@ func TestLittleIsKept(t *testing.T) {
 		verdict, err = b.run(s)
 		isVerdict(t, "a blame", verdict, err, api.Verdict{Kind: api.ReduceBlame, Map: 19, Attempt: 1, Why: api.ErrLength}, api.OK)
 	}
-	if grown := live() - before; grown > 200<<10 {
+	if grown := live() - before; grown > 500<<10 {
 		t.Errorf("%d bytes are kept", grown)
 	}
 	runtime.KeepAlive(s)
